@@ -44,11 +44,11 @@ func Run(p api.Prog, script []int) ([]int, error) {
 			return nil, api.ErrRange
 		}
 	}
-	var s state
+	var s State
 	for _, h := range script {
-		s = s.step(p, h)
+		s = s.Step(p, h)
 	}
-	return s.finish(p).told(p), nil
+	return s.finish(p).Told(p), nil
 }
 
 // fits tells whether a line may stand in a program of so many words; what it does not need is not looked at.

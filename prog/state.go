@@ -11,16 +11,27 @@ const (
 	columns = max(api.MaxRegs+1, api.MaxWords)
 )
 
-// state of a program: a row for each hand, and one of words. It is an array, so that a state is copied when it is assigned, and none that was seen is changed by what comes behind it.
-type state [maxHands + 1][columns]int
+// State of a program: a row for each hand, and one of words. It is an array, so that a state is copied when it is assigned, and none that was seen is changed by what comes behind it.
+//
+// The zero State is that in which no line is done. What a State's methods are asked holds for a program that Check finds nothing wrong with, for its hands, and for states that come of its lines.
+type State [maxHands + 1][columns]int
 
-// step is the state when a hand has done its next line: the same one, if it has none left.
-func (s state) step(p api.Prog, hand int) state {
-	if s.done(p, hand) {
+// Next is the line that a hand does next; false, if it has none left.
+func (s State) Next(p api.Prog, hand int) (api.Line, bool) {
+	lines, at := p.Hands[hand], s[hand][next]
+	if at >= len(lines) {
+		return api.Line{}, false
+	}
+	return lines[at], true
+}
+
+// Step is the state when a hand has done its next line: the same one, if it has none left.
+func (s State) Step(p api.Prog, hand int) State {
+	l, ok := s.Next(p, hand)
+	if !ok {
 		return s
 	}
-	lines, own, words := p.Hands[hand], &s[hand], &s[wordRow]
-	l := lines[own[next]]
+	own, words := &s[hand], &s[wordRow]
 	own[next]++
 	switch l.Kind {
 	case api.Put:
@@ -34,30 +45,37 @@ func (s state) step(p api.Prog, hand int) state {
 	case api.Leave:
 		if own[l.Reg] == 0 {
 			// No further than the end: a hand that is done is so in one way only.
-			own[next] = min(own[next]+l.Value, len(lines))
+			own[next] = min(own[next]+l.Value, len(p.Hands[hand]))
 		}
 	}
 	return s
 }
 
-// done tells whether a hand has no line left.
-func (s state) done(p api.Prog, hand int) bool { return s[hand][next] >= len(p.Hands[hand]) }
-
-// finish is the state when, hand by hand, all lines that are left are done.
-func (s state) finish(p api.Prog) state {
+// Ended tells whether no hand has a line left.
+func (s State) Ended(p api.Prog) bool {
 	for h := range p.Hands {
-		for !s.done(p, h) {
-			s = s.step(p, h)
+		if _, ok := s.Next(p, h); ok {
+			return false
 		}
 	}
-	return s
+	return true
 }
 
-// told are all registers, hand by hand, and behind them all words.
-func (s state) told(p api.Prog) []int {
+// Told are all registers, hand by hand, and behind them all words.
+func (s State) Told(p api.Prog) []int {
 	out := make([]int, 0, len(p.Hands)*api.MaxRegs+p.Words)
 	for h := range p.Hands {
 		out = append(out, s[h][:api.MaxRegs]...)
 	}
 	return append(out, s[wordRow][:p.Words]...)
+}
+
+// finish is the state when, hand by hand, all lines that are left are done.
+func (s State) finish(p api.Prog) State {
+	for h, lines := range p.Hands {
+		for range lines {
+			s = s.Step(p, h)
+		}
+	}
+	return s
 }
