@@ -5,8 +5,8 @@ import (
 	"latchgarth/api"
 )
 
-// maxHands of a program; api.MaxHands is another bound, that of locks.
-const maxHands = 3
+// MaxHands of a program; api.MaxHands is another bound, that of locks.
+const MaxHands = 3
 
 // Check tells what is wrong with a program.
 func Check(p api.Prog) error {
@@ -15,7 +15,7 @@ func Check(p api.Prog) error {
 		return api.ErrRange
 	case len(p.Hands) == 0:
 		return api.ErrNone
-	case len(p.Hands) > maxHands:
+	case len(p.Hands) > MaxHands:
 		return api.ErrFull
 	}
 	for _, lines := range p.Hands {

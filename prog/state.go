@@ -6,7 +6,7 @@ import (
 
 // Where things stand in a state.
 const (
-	wordRow = maxHands    // the row behind those of the hands: the words
+	wordRow = MaxHands    // the row behind those of the hands: the words
 	next    = api.MaxRegs // in a hand's row, behind its registers: the number of its next line
 	columns = max(api.MaxRegs+1, api.MaxWords)
 )
@@ -14,7 +14,7 @@ const (
 // State of a program: a row for each hand, and one of words. It is an array, so that a state is copied when it is assigned, and none that was seen is changed by what comes behind it.
 //
 // The zero State is that in which no line is done. What a State's methods are asked holds for a program that Check finds nothing wrong with, for its hands, and for states that come of its lines.
-type State [maxHands + 1][columns]int
+type State [MaxHands + 1][columns]int
 
 // Next is the line that a hand does next; false, if it has none left.
 func (s State) Next(p api.Prog, hand int) (api.Line, bool) {
@@ -68,6 +68,15 @@ func (s State) Told(p api.Prog) []int {
 		out = append(out, s[h][:api.MaxRegs]...)
 	}
 	return append(out, s[wordRow][:p.Words]...)
+}
+
+// Words are all words; behind those that the program has stand 0s.
+func (s State) Words() [api.MaxWords]int { return [api.MaxWords]int(s[wordRow][:api.MaxWords]) }
+
+// WithWords is the state with other words.
+func (s State) WithWords(words [api.MaxWords]int) State {
+	copy(s[wordRow][:], words[:])
+	return s
 }
 
 // finish is the state when, hand by hand, all lines that are left are done.

@@ -54,6 +54,25 @@ func TestStateValue(t *testing.T) {
 	}
 }
 
+// TestStateWords: words are handed out and taken in as they are; nothing else changes, nor the state that was there before.
+func TestStateWords(t *testing.T) {
+	p := program(4, hand(put(1, 3), store(1, 2)), hand(load(0, 3)), nil)
+	s := prog.State{}.Step(p, 0).Step(p, 0)
+	if got := s.Words(); got != [api.MaxWords]int{0, 0, 3, 0} {
+		t.Errorf("got %v", got)
+	}
+	other := s.WithWords([api.MaxWords]int{5, 6, 7, 8})
+	if got := other.Words(); got != [api.MaxWords]int{5, 6, 7, 8} {
+		t.Errorf("got %v", got)
+	}
+	if got := other.Step(p, 1).Told(p); !slices.Equal(got, []int{0, 3, 8, 0, 0, 0, 5, 6, 7, 8}) {
+		t.Errorf("got %v", got)
+	}
+	if other == s || other.WithWords(s.Words()) != s || s.Words() != [api.MaxWords]int{0, 0, 3, 0} {
+		t.Errorf("got %v and %v", s, other)
+	}
+}
+
 // TestStateTold: what is told is fresh.
 func TestStateTold(t *testing.T) {
 	p := program(2, hand(put(1, 3)))
